@@ -6,6 +6,7 @@ import (
 
 	"stole/api"
 	"stole/known"
+	"stole/lines"
 	"stole/refs"
 )
 
@@ -27,7 +28,7 @@ func Tokens(page string) ([]api.Token, api.Errno) {
 	if len(page) > api.MaxText {
 		return nil, api.ErrTokLong
 	}
-	r := reader{page: oneLineEnd(page), steps: steppers(), state: Start()}
+	r := reader{page: lines.OneEnd(page), steps: steppers(), state: Start()}
 	for i := range len(r.page) {
 		r.read(i)
 	}
@@ -35,11 +36,6 @@ func Tokens(page string) ([]api.Token, api.Errno) {
 		r.tellText(len(r.page), r.state.Held)
 	}
 	return r.tokens, api.OK
-}
-
-// oneLineEnd gives the page with a byte 10 for each end of a line.
-func oneLineEnd(page string) string {
-	return strings.ReplaceAll(strings.ReplaceAll(page, "\r\n", "\n"), "\r", "\n")
 }
 
 // isLoose tells whether what is read there is text, unless a tag or a comment comes of it.
