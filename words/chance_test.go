@@ -23,8 +23,8 @@ var (
 	onlyName  = regexp.MustCompile(`^` + aName)
 )
 
-// names gives the names that a text tells with a `.` between each two.
-func names(s string) []string {
+// namesOf gives the names that a text tells with a `.` between each two.
+func namesOf(s string) []string {
 	return strings.FieldsFunc(s, func(r rune) bool { return r == '.' })
 }
 
@@ -45,10 +45,10 @@ func long(s string) (api.Word, int, api.Errno) {
 		return api.Word{Kind: api.WordInt, Int: int(n.Int64())}, len(digits), api.OK
 	}
 	if m := aField.FindStringSubmatch(s); m != nil {
-		return api.Word{Kind: api.WordField, Path: names(m[1])}, len(m[0]), api.OK
+		return api.Word{Kind: api.WordField, Path: namesOf(m[1])}, len(m[0]), api.OK
 	}
 	if m := aVariable.FindStringSubmatch(s); m != nil {
-		return api.Word{Kind: api.WordVar, Text: m[1], Path: names(m[2])}, len(m[0]), api.OK
+		return api.Word{Kind: api.WordVar, Text: m[1], Path: namesOf(m[2])}, len(m[0]), api.OK
 	}
 	if m := onlyName.FindString(s); m != "" {
 		return api.Word{Kind: api.WordName, Text: m}, len(m), api.OK

@@ -4,6 +4,7 @@ import (
 	"strings"
 
 	"stole/api"
+	"stole/names"
 )
 
 // reader reads an action from the left on; what it cannot read it ends by a panic with an api.Errno, so that the first one that it meets is told.
@@ -80,24 +81,24 @@ func (r *reader) field() api.Word {
 
 // path reads names with a `.` between each two.
 func (r *reader) path() []string {
-	names := []string{r.name()}
+	path := []string{r.name()}
 	for r.skip(".") {
-		if len(names) == api.MaxPath {
+		if len(path) == api.MaxPath {
 			panic(api.ErrWordsForm)
 		}
-		names = append(names, r.name())
+		path = append(path, r.name())
 	}
-	return names
+	return path
 }
 
 // name reads a name. It is a copy, so that it holds no action.
 func (r *reader) name() string {
 	begin := r.at
-	for isNameByte(r.peek()) {
+	for names.MayHold(r.peek()) {
 		r.at++
 	}
 	name := r.action[begin:r.at]
-	if name == "" || isDigit(name[0]) || len(name) > api.MaxName {
+	if !names.Is(name) {
 		panic(api.ErrWordsForm)
 	}
 	return strings.Clone(name)
@@ -199,8 +200,3 @@ func (r *reader) isOver() bool { return r.at == len(r.action) }
 func isBlank(c byte) bool { return c == ' ' || c == '\t' || c == '\n' }
 
 func isDigit(c byte) bool { return c >= '0' && c <= '9' }
-
-// isNameByte tells whether c may stand in a name; a digit may not begin one.
-func isNameByte(c byte) bool {
-	return c == '_' || isDigit(c) || c >= 'a' && c <= 'z' || c >= 'A' && c <= 'Z'
-}
